@@ -1,0 +1,224 @@
+package segment
+
+import (
+	"reflect"
+	"testing"
+
+	"sixfold/api"
+)
+
+// with is a segment of an epoch with a list of cuts.
+func with(epoch int, list ...api.Cut) Segment {
+	s := New()
+	s.epoch = epoch
+	s.cuts = list
+	return s
+}
+
+func (s *Segment) put(state, lsn, epoch, value int) {
+	s.places[lsn-1] = place{state: state, epoch: epoch, value: value}
+}
+
+// arrive lets a message arrive, and checks the answer; a want of kind 0 is no answer.
+func arrive(t *testing.T, s *Segment, m, want api.Message) {
+	t.Helper()
+	got, sent := s.Arrive(m)
+	if sent != (want.Kind != 0) || !same(got, want) {
+		t.Fatalf("%+v is answered by %+v, %v, want %+v", m, got, sent, want)
+	}
+}
+
+// same takes an empty list for nil.
+func same(a, b api.Message) bool {
+	if len(a.Cuts) == 0 && len(b.Cuts) == 0 {
+		a.Cuts, b.Cuts = nil, nil
+	}
+	if len(a.Marks) == 0 && len(b.Marks) == 0 {
+		a.Marks, b.Marks = nil, nil
+	}
+	return reflect.DeepEqual(a, b)
+}
+
+func state(t *testing.T, s *Segment, want api.Segment) {
+	t.Helper()
+	if got := s.State(); !reflect.DeepEqual(got, want) {
+		t.Fatalf("P5: the segment is at %+v, want %+v", got, want)
+	}
+}
+
+func TestNew(t *testing.T) {
+	s := New()
+	state(t, &s, api.Segment{Up: true})
+}
+
+func TestState(t *testing.T) {
+	s := with(4, api.Cut{Epoch: 1}, api.Cut{Epoch: 4, At: 2})
+	s.put(buffered, 40, 4, 400)
+	s.put(kept, 4, 4, 40)
+	s.put(kept, 2, 1, 20)
+	s.put(buffered, 3, 4, 30)
+	s.put(kept, 1, 1, 10)
+	want := api.Segment{
+		Up: true, Epoch: 4, Scl: 2,
+		Cuts:   []api.Cut{{Epoch: 1}, {Epoch: 4, At: 2}},
+		Kept:   []api.Record{{Lsn: 1, Epoch: 1, Value: 10}, {Lsn: 2, Epoch: 1, Value: 20}, {Lsn: 4, Epoch: 4, Value: 40}},
+		Buffer: []api.Record{{Lsn: 3, Epoch: 4, Value: 30}, {Lsn: 40, Epoch: 4, Value: 400}},
+	}
+	state(t, &s, want)
+	got := s.State()
+	spoil(&got)
+	state(t, &s, want)
+	s.up = false
+	want.Up = false
+	state(t, &s, want)
+}
+
+// spoil writes into the lists and into their spare room.
+func spoil(g *api.Segment) {
+	c := g.Cuts[:cap(g.Cuts)]
+	for i := range c {
+		c[i] = api.Cut{Epoch: 77, At: 77}
+	}
+	for _, l := range [][]api.Record{g.Kept, g.Buffer} {
+		l = l[:cap(l)]
+		for i := range l {
+			l[i] = api.Record{Lsn: 77, Epoch: 77, Value: 77}
+		}
+	}
+}
+
+func TestListsShareNoRoom(t *testing.T) {
+	s := with(1, api.Cut{Epoch: 1})
+	s.put(kept, 1, 1, 10)
+	s.put(buffered, 2, 1, 20)
+	a, b := s.State(), s.State()
+	kept := a.Kept[:cap(a.Kept)]
+	for i := range kept {
+		kept[i] = api.Record{Lsn: 9, Epoch: 9, Value: 9}
+	}
+	if a.Buffer[0] != (api.Record{Lsn: 2, Epoch: 1, Value: 20}) {
+		t.Errorf("P2: Kept and Buffer share room: %+v", a)
+	}
+	spoil(&a)
+	if b.Cuts[0].Epoch != 1 || b.Kept[0].Lsn != 1 || b.Buffer[0].Lsn != 2 {
+		t.Errorf("P2: the lists of two calls share room: %+v", b)
+	}
+}
+
+func TestScl(t *testing.T) {
+	s := with(1, api.Cut{Epoch: 1})
+	s.put(kept, 2, 1, 0)
+	if n := s.State().Scl; n != 0 {
+		t.Errorf("Scl without record 1 is %d", n)
+	}
+	s.put(buffered, 1, 1, 0)
+	if n := s.State().Scl; n != 0 {
+		t.Errorf("Scl with record 1 in the buffer is %d", n)
+	}
+	for lsn := range api.MaxLog {
+		s.put(kept, lsn+1, 1, 0)
+	}
+	if n := s.State().Scl; n != api.MaxLog {
+		t.Errorf("Scl of a full log is %d", n)
+	}
+}
+
+func TestFence(t *testing.T) {
+	s := with(3, api.Cut{Epoch: 1}, api.Cut{Epoch: 3, At: 1})
+	s.put(kept, 1, 1, 10)
+	s.put(kept, 2, 3, 20)
+	s.put(buffered, 3, 3, 30)
+	s.put(kept, 4, 3, 40)
+	before := s.State()
+	arrive(t, &s, api.Message{Kind: api.MFence, From: 2, To: 4, Epoch: 2}, api.Message{Kind: api.MRefused, From: 4, To: 2, Epoch: 3})
+	state(t, &s, before)
+	// once more by the writer of its epoch, then by a newer one
+	for _, e := range []int{3, 5} {
+		arrive(t, &s, api.Message{Kind: api.MFence, From: e, To: 4, Epoch: e},
+			api.Message{Kind: api.MFenced, From: 4, To: e, Epoch: e, Cuts: []api.Cut{{Epoch: 1}, {Epoch: 3, At: 1}}, Marks: []int{1, 3}})
+		before.Epoch = e
+		state(t, &s, before)
+	}
+	arrive(t, &s, api.Message{Kind: api.MFence, From: 4, To: 4, Epoch: 4}, api.Message{Kind: api.MRefused, From: 4, To: 4, Epoch: 5})
+}
+
+func TestFenceEmpty(t *testing.T) {
+	s := New()
+	arrive(t, &s, api.Message{Kind: api.MFence, From: 1, To: 5, Epoch: 1}, api.Message{Kind: api.MFenced, From: 5, To: 1, Epoch: 1})
+	state(t, &s, api.Segment{Up: true, Epoch: 1})
+}
+
+func TestCut(t *testing.T) {
+	s := with(1, api.Cut{Epoch: 1})
+	s.put(kept, 1, 1, 10)
+	s.put(kept, 2, 1, 20)
+	s.put(kept, 3, 1, 30)
+	s.put(buffered, 4, 1, 40)
+	s.put(kept, 40, 1, 400)
+	list := []api.Cut{{Epoch: 1}, {Epoch: 2, At: 2}}
+	arrive(t, &s, api.Message{Kind: api.MCut, From: 2, To: 0, Epoch: 2, Cuts: list}, api.Message{Kind: api.MStatus, From: 0, To: 2, Epoch: 2, Scl: 2})
+	list[1].At = 9 // the segment's list is its own
+	want := api.Segment{
+		Up: true, Epoch: 2, Scl: 2,
+		Cuts: []api.Cut{{Epoch: 1}, {Epoch: 2, At: 2}},
+		Kept: []api.Record{{Lsn: 1, Epoch: 1, Value: 10}, {Lsn: 2, Epoch: 1, Value: 20}},
+	}
+	state(t, &s, want)
+	// what is good stays in the buffer
+	s.put(buffered, 2, 1, 20)
+	list = []api.Cut{{Epoch: 1}, {Epoch: 2, At: 2}, {Epoch: 4, At: 2}}
+	arrive(t, &s, api.Message{Kind: api.MCut, From: 4, To: 0, Epoch: 4, Cuts: list}, api.Message{Kind: api.MStatus, From: 0, To: 4, Epoch: 4, Scl: 1})
+	state(t, &s, api.Segment{
+		Up: true, Epoch: 4, Scl: 1, Cuts: list,
+		Kept:   []api.Record{{Lsn: 1, Epoch: 1, Value: 10}},
+		Buffer: []api.Record{{Lsn: 2, Epoch: 1, Value: 20}},
+	})
+}
+
+func TestCutForgetsUnknownWriters(t *testing.T) {
+	// the records of a writer whose cut is not in the new list are gone, however low their numbers
+	s := with(1, api.Cut{Epoch: 1})
+	s.put(kept, 1, 1, 10)
+	s.put(buffered, 2, 1, 20)
+	arrive(t, &s, api.Message{Kind: api.MCut, From: 2, To: 3, Epoch: 2, Cuts: []api.Cut{{Epoch: 2, At: 5}}}, api.Message{Kind: api.MStatus, From: 3, To: 2, Epoch: 2})
+	state(t, &s, api.Segment{Up: true, Epoch: 2, Cuts: []api.Cut{{Epoch: 2, At: 5}}})
+}
+
+func TestCutAgain(t *testing.T) {
+	// of the writer whose cut is the top already: the list stays, and so do the records
+	s := with(2, api.Cut{Epoch: 2, At: 0})
+	s.put(kept, 1, 2, 10)
+	s.put(buffered, 2, 2, 20)
+	s.put(kept, 3, 1, 30)
+	before := s.State()
+	arrive(t, &s, api.Message{Kind: api.MCut, From: 2, To: 1, Epoch: 2, Cuts: []api.Cut{{Epoch: 1}, {Epoch: 2, At: 0}}}, api.Message{Kind: api.MStatus, From: 1, To: 2, Epoch: 2, Scl: 1})
+	state(t, &s, before)
+	// of an older writer
+	arrive(t, &s, api.Message{Kind: api.MCut, From: 1, To: 1, Epoch: 1, Cuts: []api.Cut{{Epoch: 1}}}, api.Message{Kind: api.MRefused, From: 1, To: 1, Epoch: 2})
+	state(t, &s, before)
+}
+
+func TestCutOfTheFencingWriter(t *testing.T) {
+	// fenced by the writer already, not yet cut
+	s := with(2, api.Cut{Epoch: 1})
+	s.put(kept, 1, 1, 10)
+	arrive(t, &s, api.Message{Kind: api.MCut, From: 2, To: 1, Epoch: 2, Cuts: []api.Cut{{Epoch: 1}, {Epoch: 2, At: 0}}}, api.Message{Kind: api.MStatus, From: 1, To: 2, Epoch: 2})
+	state(t, &s, api.Segment{Up: true, Epoch: 2, Cuts: []api.Cut{{Epoch: 1}, {Epoch: 2, At: 0}}})
+}
+
+func TestDown(t *testing.T) {
+	s := with(2, api.Cut{Epoch: 2})
+	s.put(kept, 1, 2, 10)
+	s.up = false
+	before := s.State()
+	for kind := api.MFence; kind <= api.MFill; kind++ {
+		for e := 1; e <= 3; e++ {
+			m := api.Message{Kind: kind, From: e, To: 0, Epoch: e, Lsn: 1}
+			if kind == api.MCut {
+				m.Cuts = []api.Cut{{Epoch: e}}
+			}
+			arrive(t, &s, m, api.Message{})
+			state(t, &s, before)
+		}
+	}
+}
