@@ -49,8 +49,28 @@ func (s *Segment) Arrive(m api.Message) (api.Message, bool) {
 		return s.fence(m), true
 	case api.MCut:
 		return s.cut(m), true
+	case api.MWrite:
+		return s.write(m)
 	}
 	return api.Message{}, false
+}
+
+// Down tells whether the segment is down.
+func (s *Segment) Down() bool {
+	return !s.up
+}
+
+// Sync keeps what is in the buffer, and gives the status that is to be sent, if the writer of the segment's epoch has cut here. A segment does not know its own number.
+func (s *Segment) Sync(number int) (api.Message, bool) {
+	for i := 0; i < api.MaxLog; i++ {
+		if s.places[i].state == buffered {
+			s.places[i].state = kept
+		}
+	}
+	if s.epoch == 0 || s.epoch != cuts.Top(s.cuts) {
+		return api.Message{}, false
+	}
+	return s.status(number, s.epoch), true
 }
 
 func (s *Segment) fence(m api.Message) api.Message {
@@ -73,15 +93,37 @@ func (s *Segment) cut(m api.Message) api.Message {
 		s.cuts = cuts.Copy(m.Cuts)
 		s.forget()
 	}
-	return s.status(m)
+	return s.status(m.To, m.From)
+}
+
+// write takes a record into the buffer, and gives the answer, if there is one to be sent.
+func (s *Segment) write(m api.Message) (api.Message, bool) {
+	if m.Epoch < s.epoch {
+		return s.refusal(m), true
+	}
+	if m.Epoch != s.epoch || m.Epoch != cuts.Top(s.cuts) {
+		return api.Message{}, false
+	}
+	if m.Lsn < 1 || m.Lsn > api.MaxLog {
+		return api.Message{}, false
+	}
+	i := m.Lsn - 1
+	if s.places[i].state == kept {
+		// The writer may have missed that it is kept.
+		return s.status(m.To, m.From), true
+	}
+	if s.places[i].state != buffered {
+		s.places[i] = place{state: buffered, epoch: m.Epoch, value: m.Value}
+	}
+	return api.Message{}, false
 }
 
 func (s *Segment) refusal(m api.Message) api.Message {
 	return api.Message{Kind: api.MRefused, From: m.To, To: m.From, Epoch: s.epoch}
 }
 
-func (s *Segment) status(m api.Message) api.Message {
-	return api.Message{Kind: api.MStatus, From: m.To, To: m.From, Epoch: m.Epoch, Scl: s.scl()}
+func (s *Segment) status(number int, writer int) api.Message {
+	return api.Message{Kind: api.MStatus, From: number, To: writer, Epoch: writer, Scl: s.scl()}
 }
 
 // forget drops all records that are not good by the segment's list.

@@ -209,16 +209,144 @@ func TestCutOfTheFencingWriter(t *testing.T) {
 func TestDown(t *testing.T) {
 	s := with(2, api.Cut{Epoch: 2})
 	s.put(kept, 1, 2, 10)
+	if s.Down() {
+		t.Errorf("a segment that is up is down")
+	}
 	s.up = false
+	if !s.Down() {
+		t.Errorf("a segment that is down is up")
+	}
 	before := s.State()
 	for kind := api.MFence; kind <= api.MFill; kind++ {
 		for e := 1; e <= 3; e++ {
-			m := api.Message{Kind: kind, From: e, To: 0, Epoch: e, Lsn: 1}
-			if kind == api.MCut {
-				m.Cuts = []api.Cut{{Epoch: e}}
+			for lsn := 1; lsn <= 2; lsn++ {
+				m := api.Message{Kind: kind, From: e, To: 0, Epoch: e, Lsn: lsn}
+				if kind == api.MCut {
+					m.Cuts = []api.Cut{{Epoch: e}}
+				}
+				arrive(t, &s, m, api.Message{})
+				state(t, &s, before)
 			}
-			arrive(t, &s, m, api.Message{})
-			state(t, &s, before)
 		}
 	}
+}
+
+func write(w, s, lsn, value int) api.Message {
+	return api.Message{Kind: api.MWrite, From: w, To: s, Epoch: w, Lsn: lsn, Value: value}
+}
+
+// sync checks what is sent; a want of kind 0 is nothing.
+func sync(t *testing.T, s *Segment, number int, want api.Message) {
+	t.Helper()
+	got, sent := s.Sync(number)
+	if sent != (want.Kind != 0) || !same(got, want) {
+		t.Fatalf("P10: Sync sends %+v, %v, want %+v", got, sent, want)
+	}
+}
+
+func TestWrite(t *testing.T) {
+	s := with(2, api.Cut{Epoch: 1}, api.Cut{Epoch: 2, At: 1})
+	s.put(kept, 1, 1, 10)
+	arrive(t, &s, write(2, 3, 3, -1<<63), api.Message{})
+	arrive(t, &s, write(2, 3, 2, 1<<63-1), api.Message{})
+	want := api.Segment{
+		Up: true, Epoch: 2, Scl: 1,
+		Cuts:   []api.Cut{{Epoch: 1}, {Epoch: 2, At: 1}},
+		Kept:   []api.Record{{Lsn: 1, Epoch: 1, Value: 10}},
+		Buffer: []api.Record{{Lsn: 2, Epoch: 2, Value: 1<<63 - 1}, {Lsn: 3, Epoch: 2, Value: -1 << 63}},
+	}
+	state(t, &s, want)
+	// one that is in the buffer stays as it is, and nothing is told of it
+	arrive(t, &s, write(2, 3, 3, 5), api.Message{})
+	state(t, &s, want)
+	// of one that is kept the writer is told how far the segment goes
+	s.put(kept, 3, 2, 30)
+	before := s.State()
+	arrive(t, &s, write(2, 3, 3, 5), api.Message{Kind: api.MStatus, From: 3, To: 2, Epoch: 2, Scl: 1})
+	state(t, &s, before)
+}
+
+func TestWriteByEpochs(t *testing.T) {
+	cut := api.Cut{Epoch: 2}
+	// the segment's epoch is 4, and so is the top
+	s := with(4, cut, api.Cut{Epoch: 4})
+	before := s.State()
+	for w := 1; w <= 3; w++ {
+		arrive(t, &s, write(w, 5, 1, 7), api.Message{Kind: api.MRefused, From: 5, To: w, Epoch: 4})
+		state(t, &s, before)
+	}
+	arrive(t, &s, write(5, 5, 1, 7), api.Message{})
+	state(t, &s, before)
+	arrive(t, &s, write(4, 5, 1, 7), api.Message{})
+	before.Buffer = []api.Record{{Lsn: 1, Epoch: 4, Value: 7}}
+	state(t, &s, before)
+	// the epoch is 4, the top 2: writer 4 has fenced, and not yet cut
+	for _, k := range []int{0, buffered, kept} {
+		s = with(4, cut)
+		if k != 0 {
+			s.put(k, 1, 2, 10)
+		}
+		before = s.State()
+		arrive(t, &s, write(2, 5, 1, 7), api.Message{Kind: api.MRefused, From: 5, To: 2, Epoch: 4})
+		arrive(t, &s, write(4, 5, 1, 7), api.Message{})
+		arrive(t, &s, write(5, 5, 1, 7), api.Message{})
+		state(t, &s, before)
+	}
+	// at the top alone
+	s = with(2, api.Cut{Epoch: 4})
+	before = s.State()
+	arrive(t, &s, write(4, 5, 1, 7), api.Message{})
+	state(t, &s, before)
+	s = New()
+	arrive(t, &s, write(1, 5, 1, 7), api.Message{})
+	state(t, &s, api.Segment{Up: true})
+}
+
+func TestWriteBounds(t *testing.T) {
+	s := with(1, api.Cut{Epoch: 1})
+	for _, lsn := range []int{-1 << 63, -1, 0, api.MaxLog + 1, 1<<63 - 1} {
+		arrive(t, &s, write(1, 0, lsn, 7), api.Message{})
+		state(t, &s, api.Segment{Up: true, Epoch: 1, Cuts: []api.Cut{{Epoch: 1}}})
+	}
+	arrive(t, &s, write(1, 0, api.MaxLog, 7), api.Message{})
+	arrive(t, &s, write(1, 0, 1, 6), api.Message{})
+	sync(t, &s, 0, api.Message{Kind: api.MStatus, From: 0, To: 1, Epoch: 1, Scl: 1})
+	state(t, &s, api.Segment{
+		Up: true, Epoch: 1, Scl: 1, Cuts: []api.Cut{{Epoch: 1}},
+		Kept: []api.Record{{Lsn: 1, Epoch: 1, Value: 6}, {Lsn: api.MaxLog, Epoch: 1, Value: 7}},
+	})
+}
+
+func TestSync(t *testing.T) {
+	list := []api.Cut{{Epoch: 1}, {Epoch: 3, At: 1}}
+	s := with(3, list...)
+	s.put(kept, 2, 3, 20)
+	s.put(buffered, 1, 1, 10)
+	s.put(buffered, 4, 3, 40)
+	want := api.Segment{
+		Up: true, Epoch: 3, Scl: 2, Cuts: list,
+		Kept: []api.Record{{Lsn: 1, Epoch: 1, Value: 10}, {Lsn: 2, Epoch: 3, Value: 20}, {Lsn: 4, Epoch: 3, Value: 40}},
+	}
+	// with an empty buffer the writer is told, too
+	for range 2 {
+		sync(t, &s, 5, api.Message{Kind: api.MStatus, From: 5, To: 3, Epoch: 3, Scl: 2})
+		state(t, &s, want)
+	}
+}
+
+func TestSyncTellsNobody(t *testing.T) {
+	s := New()
+	sync(t, &s, 0, api.Message{})
+	state(t, &s, api.Segment{Up: true})
+	// fenced by the first writer
+	s = with(1)
+	sync(t, &s, 0, api.Message{})
+	// fenced by a newer writer: what is in the buffer is kept all the same
+	s = with(2, api.Cut{Epoch: 1})
+	s.put(buffered, 1, 1, 10)
+	sync(t, &s, 0, api.Message{})
+	state(t, &s, api.Segment{
+		Up: true, Epoch: 2, Scl: 1, Cuts: []api.Cut{{Epoch: 1}},
+		Kept: []api.Record{{Lsn: 1, Epoch: 1, Value: 10}},
+	})
 }

@@ -10,6 +10,7 @@ import (
 
 // Volume is six segments, the writers, and the network between them.
 type Volume struct {
+	window   int
 	net      network.Network
 	segments [api.Segments]segment.Segment
 	writers  []writer.Writer
@@ -23,7 +24,7 @@ func New(c api.Config) (*Volume, api.Errno) {
 	if c.Flight < 1 || c.Flight > api.MaxFlight {
 		return nil, api.ErrConfig
 	}
-	v := &Volume{}
+	v := &Volume{window: c.Window}
 	v.net = network.New(c.Flight)
 	for s := 0; s < api.Segments; s++ {
 		v.segments[s] = segment.New()
@@ -123,10 +124,33 @@ func (v *Volume) Resend(w int) api.Errno {
 }
 
 // Append writes a record (P9).
-func (v *Volume) Append(w int, value int) (int, api.Errno) { return 0, api.OK }
+func (v *Volume) Append(w int, value int) (int, api.Errno) {
+	if !v.isWriter(w) {
+		return 0, api.ErrWriter
+	}
+	lsn, e := v.writers[w-1].Append(value, v.window)
+	if e != api.OK {
+		return 0, e
+	}
+	writes := v.writers[w-1].Writes(lsn)
+	v.sendAll(writes)
+	return lsn, api.OK
+}
 
 // Sync keeps what a segment has in its buffer (P10).
-func (v *Volume) Sync(s int) api.Errno { return api.OK }
+func (v *Volume) Sync(s int) api.Errno {
+	if !isSegment(s) {
+		return api.ErrSegment
+	}
+	if v.segments[s].Down() {
+		return api.ErrDown
+	}
+	m, sent := v.segments[s].Sync(s)
+	if sent {
+		v.net.Send(m)
+	}
+	return api.OK
+}
 
 // Gossip lets segment a ask segment b for its next record (P11).
 func (v *Volume) Gossip(a int, b int) api.Errno { return api.OK }

@@ -6,6 +6,7 @@ import (
 	"testing"
 
 	"sixfold/api"
+	"sixfold/segment"
 )
 
 const (
@@ -15,7 +16,12 @@ const (
 
 func fresh(t *testing.T, flight int) *Volume {
 	t.Helper()
-	v, e := New(api.Config{Window: 2, Flight: flight})
+	return freshWith(t, 2, flight)
+}
+
+func freshWith(t *testing.T, window, flight int) *Volume {
+	t.Helper()
+	v, e := New(api.Config{Window: window, Flight: flight})
 	if v == nil || e != api.OK {
 		t.Fatalf("P3: New = %v, %d", v, e)
 	}
@@ -46,6 +52,32 @@ func arrive(t *testing.T, v *Volume) {
 			t.Fatalf("P4: there is no end of messages")
 		}
 		deliver(t, v, 0)
+	}
+}
+
+// lose loses all that is in flight.
+func lose(t *testing.T, v *Volume) {
+	t.Helper()
+	for v.Flight() > 0 {
+		if e := v.Drop(0); e != api.OK {
+			t.Fatalf("P4: Drop(0) = %d", e)
+		}
+	}
+}
+
+func appends(t *testing.T, v *Volume, w, value, lsn int, want api.Errno) {
+	t.Helper()
+	if n, e := v.Append(w, value); n != lsn || e != want {
+		t.Fatalf("P9: Append(%d, %d) = %d, %d, want %d, %d", w, value, n, e, lsn, want)
+	}
+}
+
+func sync(t *testing.T, v *Volume, l ...int) {
+	t.Helper()
+	for _, s := range l {
+		if e := v.Sync(s); e != api.OK {
+			t.Fatalf("P10: Sync(%d) = %d", s, e)
+		}
 	}
 }
 
@@ -133,6 +165,19 @@ func status(s, w, scl int) api.Message {
 	return api.Message{Kind: api.MStatus, From: s, To: w, Epoch: w, Scl: scl}
 }
 
+func write(w, s, lsn, value int) api.Message {
+	return api.Message{Kind: api.MWrite, From: w, To: s, Epoch: w, Lsn: lsn, Value: value}
+}
+
+// writes is MWrite of one record to all segments.
+func writes(w, lsn, value int) []api.Message {
+	var list []api.Message
+	for s := range api.Segments {
+		list = append(list, write(w, s, lsn, value))
+	}
+	return list
+}
+
 func TestP1WrongNumbers(t *testing.T) {
 	v := fresh(t, 20)
 	open(t, v, 1)
@@ -153,12 +198,16 @@ func TestP1WrongNumbers(t *testing.T) {
 		if g, e := v.Segment(s); !reflect.DeepEqual(g, api.Segment{}) || e != api.ErrSegment {
 			t.Errorf("P5: Segment(%d) = %+v, %d", s, g, e)
 		}
+		if e := v.Sync(s); e != api.ErrSegment {
+			t.Errorf("P10: Sync(%d) = %d", s, e)
+		}
 	}
 	for _, w := range []int{least, -1, 0, 3, 9, greatest} {
 		if x, e := v.Writer(w); x != (api.Writer{}) || e != api.ErrWriter {
 			t.Errorf("P5: Writer(%d) = %+v, %d", w, x, e)
 		}
 		resend(t, v, w, api.ErrWriter)
+		appends(t, v, w, 70, 0, api.ErrWriter)
 	}
 	unchanged(t, v, before)
 }
@@ -182,10 +231,14 @@ func TestP2Lists(t *testing.T) {
 	v := fresh(t, 100)
 	open(t, v, 1)
 	arrive(t, v)
+	appends(t, v, 1, 70, 1, api.OK)
+	appends(t, v, 1, 71, 2, api.OK)
+	arrive(t, v)
+	sync(t, v, 0, 1)
+	lose(t, v)
 	open(t, v, 2)
 	deliver(t, v, 0, 0, 0, 0, 0, 0)
 	v.Copy(0)
-	v.net.Send(api.Message{Kind: api.MFenced, From: 5, To: 1, Epoch: 1, Cuts: []api.Cut{{Epoch: 1}}, Marks: []int{1, 1, 1}})
 	before := look(v)
 	a, b := look(v), look(v)
 	for _, m := range a.messages {
@@ -194,13 +247,15 @@ func TestP2Lists(t *testing.T) {
 	}
 	for _, s := range a.segments {
 		spoilCuts(s.Cuts)
+		spoilRecords(s.Kept)
+		spoilRecords(s.Buffer)
 	}
 	unchanged(t, v, before)
 	if !reflect.DeepEqual(b, before) {
 		t.Errorf("P2: the lists of two calls share room")
 	}
 	deliver(t, v, 0, 0, 0, 0)
-	if m, _ := v.Message(v.Flight() - 1); !reflect.DeepEqual(m, cut(2, 5, api.Cut{Epoch: 1}, api.Cut{Epoch: 2})) {
+	if m, _ := v.Message(v.Flight() - 1); !reflect.DeepEqual(m, cut(2, 5, api.Cut{Epoch: 1}, api.Cut{Epoch: 2, At: 2})) {
 		t.Errorf("P2: the writer's list is %+v", m)
 	}
 }
@@ -230,6 +285,13 @@ func spoilCuts(l []api.Cut) {
 	}
 }
 
+func spoilRecords(l []api.Record) {
+	l = l[:cap(l)]
+	for i := range l {
+		l[i] = api.Record{Lsn: 77, Epoch: 77, Value: 77}
+	}
+}
+
 func spoilMarks(l []int) {
 	l = l[:cap(l)]
 	for i := range l {
@@ -241,6 +303,9 @@ func TestP2Volumes(t *testing.T) {
 	v, u := fresh(t, 100), fresh(t, 100)
 	open(t, v, 1)
 	arrive(t, v)
+	appends(t, v, 1, 70, 1, api.OK)
+	arrive(t, v)
+	sync(t, v, 3)
 	open(t, v, 2)
 	unchanged(t, u, look(fresh(t, 100)))
 	before := look(v)
@@ -412,9 +477,7 @@ func TestP7TakingOver(t *testing.T) {
 	open(t, v, 1)
 	arrive(t, v)
 	open(t, v, 2)
-	for v.Flight() > 0 {
-		v.Drop(0)
-	}
+	lose(t, v)
 	// as if three segments had kept records of writer 1
 	for s, marks := range [][]int{{1}, {1, 1, 1}, {1, 1}, nil} {
 		writerAt(t, v, 2, api.Fencing, 0, 0, 0)
@@ -452,9 +515,7 @@ func TestP7Chain(t *testing.T) {
 	deliver(t, v, 0, 0, 0, 0, 0, 0)
 	deliver(t, v, 0, 0, 0, 0)
 	deliver(t, v, 7, 6)
-	for v.Flight() > 0 {
-		v.Drop(0)
-	}
+	lose(t, v)
 	open(t, v, 2)
 	deliver(t, v, 1, 1, 1, 1) // segments 1 to 4
 	deliver(t, v, 2, 2, 2, 2)
@@ -483,9 +544,7 @@ func TestP8(t *testing.T) {
 	open(t, v, 1)
 	deliver(t, v, 0, 3) // MFence at segments 0 and 4
 	deliver(t, v, 5, 4) // their answers
-	for v.Flight() > 0 {
-		v.Drop(0)
-	}
+	lose(t, v)
 	resend(t, v, 1, api.OK)
 	inFlight(t, v, fence(1, 1), fence(1, 2), fence(1, 3), fence(1, 5))
 	writerAt(t, v, 1, api.Fencing, 0, 0, 0)
@@ -494,17 +553,13 @@ func TestP8(t *testing.T) {
 	inFlight(t, v, fence(1, 3), fence(1, 5), cut(1, 0, api.Cut{Epoch: 1}), cut(1, 1, api.Cut{Epoch: 1}), cut(1, 2, api.Cut{Epoch: 1}), cut(1, 3, api.Cut{Epoch: 1}), cut(1, 4, api.Cut{Epoch: 1}), cut(1, 5, api.Cut{Epoch: 1}))
 	deliver(t, v, 6, 6) // MCut at segments 4 and 5
 	deliver(t, v, 6)    // the answer of segment 4
-	for v.Flight() > 0 {
-		v.Drop(0)
-	}
+	lose(t, v)
 	resend(t, v, 1, api.OK)
 	inFlight(t, v, cut(1, 0, api.Cut{Epoch: 1}), cut(1, 1, api.Cut{Epoch: 1}), cut(1, 2, api.Cut{Epoch: 1}), cut(1, 3, api.Cut{Epoch: 1}), cut(1, 5, api.Cut{Epoch: 1}))
 	deliver(t, v, 0, 0, 0) // MCut at segments 0, 1 and 2
 	deliver(t, v, 2, 2, 2) // their answers
 	writerAt(t, v, 1, api.Open, 0, 0, 0)
-	for v.Flight() > 0 {
-		v.Drop(0)
-	}
+	lose(t, v)
 	resend(t, v, 1, api.OK)
 	inFlight(t, v, cut(1, 3, api.Cut{Epoch: 1}), cut(1, 5, api.Cut{Epoch: 1})) // 5's answer was lost, 3's not yet given
 	arrive(t, v)
@@ -528,6 +583,411 @@ func TestP8LittleRoom(t *testing.T) {
 		resend(t, v, 1, api.OK)
 	}
 	writerAt(t, v, 1, api.Open, 0, 0, 0)
+}
+
+// records are those of one writer, one after the other, by their values.
+func records(epoch, first int, values ...int) []api.Record {
+	var list []api.Record
+	for i, value := range values {
+		list = append(list, api.Record{Lsn: first + i, Epoch: epoch, Value: value})
+	}
+	return list
+}
+
+func TestP9Examples(t *testing.T) {
+	// example 3, but for Read
+	v := fresh(t, 100)
+	one := []api.Cut{{Epoch: 1}}
+	open(t, v, 1)
+	arrive(t, v)
+	appends(t, v, 1, 70, 1, api.OK)
+	inFlight(t, v, writes(1, 1, 70)...)
+	writerAt(t, v, 1, api.Open, 0, 1, 0)
+	appends(t, v, 1, 71, 2, api.OK)
+	both := append(writes(1, 1, 70), writes(1, 2, 71)...)
+	inFlight(t, v, both...)
+	appends(t, v, 1, 72, 0, api.ErrWindow)
+	inFlight(t, v, both...)
+	arrive(t, v)
+	for s := range api.Segments {
+		segmentAt(t, v, s, api.Segment{Up: true, Epoch: 1, Cuts: one, Buffer: records(1, 1, 70, 71)})
+	}
+	writerAt(t, v, 1, api.Open, 0, 2, 0)
+	sync(t, v, 0, 1, 2)
+	inFlight(t, v, status(0, 1, 2), status(1, 1, 2), status(2, 1, 2))
+	arrive(t, v)
+	writerAt(t, v, 1, api.Open, 0, 2, 0)
+	appends(t, v, 1, 72, 0, api.ErrWindow)
+	sync(t, v, 3)
+	writerAt(t, v, 1, api.Open, 0, 2, 0)
+	segmentAt(t, v, 3, api.Segment{Up: true, Epoch: 1, Scl: 2, Cuts: one, Kept: records(1, 1, 70, 71)})
+	arrive(t, v)
+	writerAt(t, v, 1, api.Open, 0, 2, 2)
+	// example 5
+	open(t, v, 2)
+	deliver(t, v, 0, 0, 0, 0)
+	deliver(t, v, 2, 2, 2, 2)
+	writerAt(t, v, 2, api.Cutting, 2, 2, 0)
+	appends(t, v, 2, 73, 0, api.ErrClosed)
+	arrive(t, v)
+	writerAt(t, v, 2, api.Open, 2, 2, 2)
+	two := []api.Cut{{Epoch: 1}, {Epoch: 2, At: 2}}
+	segmentAt(t, v, 4, api.Segment{Up: true, Epoch: 2, Cuts: two, Buffer: records(1, 1, 70, 71)})
+	appends(t, v, 1, 73, 3, api.OK)
+	writerAt(t, v, 1, api.Open, 0, 3, 2)
+	deliver(t, v, 0)
+	if m, _ := v.Message(5); !reflect.DeepEqual(m, api.Message{Kind: api.MRefused, From: 0, To: 1, Epoch: 2}) {
+		t.Fatalf("P9: MWrite of an older writer is answered by %+v", m)
+	}
+	arrive(t, v)
+	writerAt(t, v, 1, api.Fenced, 0, 3, 2)
+	appends(t, v, 1, 74, 0, api.ErrFenced)
+	inFlight(t, v)
+	for s := range 4 {
+		segmentAt(t, v, s, api.Segment{Up: true, Epoch: 2, Scl: 2, Cuts: two, Kept: records(1, 1, 70, 71)})
+	}
+}
+
+func TestP9CutOff(t *testing.T) {
+	// example 6
+	for _, first := range []int{1, 0} {
+		v := fresh(t, 100)
+		open(t, v, 1)
+		arrive(t, v)
+		appends(t, v, 1, 80, 1, api.OK)
+		deliver(t, v, 0)
+		sync(t, v, 0)
+		lose(t, v)
+		open(t, v, 2)
+		deliver(t, v, first, first, first, first)
+		deliver(t, v, 2, 2, 2, 2)
+		base := 1 - first
+		writerAt(t, v, 2, api.Cutting, base, base, 0)
+		arrive(t, v)
+		g := api.Segment{Up: true, Epoch: 2, Cuts: []api.Cut{{Epoch: 1}, {Epoch: 2, At: base}}}
+		segmentAt(t, v, 1, g)
+		if base == 0 {
+			segmentAt(t, v, 0, g)
+			writerAt(t, v, 2, api.Open, 0, 0, 0)
+			continue
+		}
+		g.Scl, g.Kept = 1, records(1, 1, 80)
+		segmentAt(t, v, 0, g)
+		// one segment alone has the record
+		sync(t, v, 0, 1, 2, 3, 4, 5)
+		arrive(t, v)
+		writerAt(t, v, 2, api.Cutting, 1, 1, 0)
+		// what an earlier writer appended is not sent again
+		resend(t, v, 2, api.OK)
+		inFlight(t, v)
+	}
+}
+
+func TestP9Errors(t *testing.T) {
+	v := freshWith(t, 1, 100)
+	appends(t, v, 1, 70, 0, api.ErrWriter)
+	open(t, v, 1)
+	appends(t, v, 1, 70, 0, api.ErrClosed)
+	writerAt(t, v, 1, api.Fencing, 0, 0, 0)
+	arrive(t, v)
+	appends(t, v, 1, least, 1, api.OK)
+	arrive(t, v)
+	open(t, v, 2)
+	arrive(t, v)
+	// of a writer that is fenced off and does not know yet: its window is full
+	before := look(v)
+	appends(t, v, 1, 71, 0, api.ErrWindow)
+	unchanged(t, v, before)
+	resend(t, v, 1, api.OK)
+	arrive(t, v)
+	before = look(v)
+	for _, value := range []int{least, 0, greatest} {
+		appends(t, v, 1, value, 0, api.ErrFenced)
+	}
+	unchanged(t, v, before)
+	writerAt(t, v, 1, api.Fenced, 0, 1, 0)
+}
+
+// fill appends until the log is full; the segments keep all.
+func fill(t *testing.T, v *Volume, w, from int) {
+	t.Helper()
+	for lsn := from; lsn <= api.MaxLog; lsn++ {
+		appends(t, v, w, 100+lsn, lsn, api.OK)
+		arrive(t, v)
+		sync(t, v, 1, 2, 4, 5)
+		arrive(t, v)
+	}
+}
+
+func TestP9Full(t *testing.T) {
+	v := freshWith(t, api.MaxWindow, 100)
+	open(t, v, 1)
+	arrive(t, v)
+	for lsn := 1; lsn <= api.MaxLog-api.MaxWindow; lsn++ {
+		appends(t, v, 1, 100+lsn, lsn, api.OK)
+		arrive(t, v)
+		sync(t, v, 1, 2, 4, 5)
+		arrive(t, v)
+	}
+	writerAt(t, v, 1, api.Open, 0, 32, 32)
+	for lsn := 33; lsn <= api.MaxLog; lsn++ {
+		appends(t, v, 1, 100+lsn, lsn, api.OK)
+	}
+	// the log and the window are full
+	before := look(v)
+	appends(t, v, 1, 99, 0, api.ErrFull)
+	unchanged(t, v, before)
+	writerAt(t, v, 1, api.Open, 0, 40, 32)
+	arrive(t, v)
+	sync(t, v, 1, 2, 4, 5)
+	arrive(t, v)
+	writerAt(t, v, 1, api.Open, 0, 40, 40)
+	appends(t, v, 1, 99, 0, api.ErrFull)
+	g, _ := v.Segment(5)
+	if g.Scl != api.MaxLog || len(g.Kept) != api.MaxLog || g.Kept[39] != (api.Record{Lsn: 40, Epoch: 1, Value: 140}) {
+		t.Fatalf("P10: segment 5 is at %+v", g)
+	}
+	// the next writer has the full log from the beginning
+	open(t, v, 2)
+	arrive(t, v)
+	writerAt(t, v, 2, api.Open, 40, 40, 40)
+	appends(t, v, 2, 99, 0, api.ErrFull)
+	// of a writer that is fenced that is what is told
+	v.net.Send(cut(1, 0, api.Cut{Epoch: 1}))
+	arrive(t, v)
+	appends(t, v, 1, 99, 0, api.ErrFenced)
+}
+
+func TestP9FullBehindTheBase(t *testing.T) {
+	v := freshWith(t, 1, 100)
+	open(t, v, 1)
+	arrive(t, v)
+	appends(t, v, 1, 101, 1, api.OK)
+	arrive(t, v)
+	sync(t, v, 1, 2, 4, 5)
+	arrive(t, v)
+	open(t, v, 2)
+	arrive(t, v)
+	writerAt(t, v, 2, api.Open, 1, 1, 1)
+	fill(t, v, 2, 2)
+	writerAt(t, v, 2, api.Open, 1, 40, 40)
+	appends(t, v, 2, 99, 0, api.ErrFull)
+	inFlight(t, v)
+}
+
+func TestP9Window(t *testing.T) {
+	for window := 1; window <= api.MaxWindow; window++ {
+		v := freshWith(t, window, 100)
+		open(t, v, 1)
+		arrive(t, v)
+		for lsn := 1; lsn <= window; lsn++ {
+			appends(t, v, 1, lsn, lsn, api.OK)
+		}
+		before := look(v)
+		appends(t, v, 1, 99, 0, api.ErrWindow)
+		unchanged(t, v, before)
+		writerAt(t, v, 1, api.Open, 0, window, 0)
+		// record 1 at four segments: the window moves on by one
+		for s := range 4 {
+			deliver(t, v, 0)
+			sync(t, v, s)
+		}
+		for range 4 {
+			appends(t, v, 1, 99, 0, api.ErrWindow)
+			deliver(t, v, v.Flight()-1)
+		}
+		writerAt(t, v, 1, api.Open, 0, window, 1)
+		appends(t, v, 1, 99, window+1, api.OK)
+		appends(t, v, 1, 99, 0, api.ErrWindow)
+	}
+}
+
+func TestP9NetworkFull(t *testing.T) {
+	// with room for four of the six
+	v := fresh(t, 6)
+	open(t, v, 1)
+	arrive(t, v)
+	resend(t, v, 1, api.OK) // MCut to segments 4 and 5 had no room
+	arrive(t, v)
+	sync(t, v, 0, 1)
+	appends(t, v, 1, 70, 1, api.OK)
+	inFlight(t, v, status(0, 1, 0), status(1, 1, 0), write(1, 0, 1, 70), write(1, 1, 1, 70), write(1, 2, 1, 70), write(1, 3, 1, 70))
+	// with no room at all: the record is in the log all the same
+	appends(t, v, 1, 71, 2, api.OK)
+	writerAt(t, v, 1, api.Open, 0, 2, 0)
+	appends(t, v, 1, 72, 0, api.ErrWindow)
+	lose(t, v)
+	for range 2 {
+		resend(t, v, 1, api.OK)
+		arrive(t, v)
+		sync(t, v, 0, 1, 2, 3, 4, 5)
+		arrive(t, v)
+	}
+	writerAt(t, v, 1, api.Open, 0, 2, 2)
+	for s := range api.Segments {
+		segmentAt(t, v, s, api.Segment{Up: true, Epoch: 1, Scl: 2, Cuts: []api.Cut{{Epoch: 1}}, Kept: records(1, 1, 70, 71)})
+	}
+}
+
+func TestP9Arrivals(t *testing.T) {
+	v := fresh(t, 100)
+	one := []api.Cut{{Epoch: 1}}
+	open(t, v, 1)
+	arrive(t, v)
+	appends(t, v, 1, 70, 1, api.OK)
+	appends(t, v, 1, 71, 2, api.OK)
+	// record 2 ahead of record 1, and twice
+	v.Copy(6)
+	deliver(t, v, 6)
+	segmentAt(t, v, 0, api.Segment{Up: true, Epoch: 1, Cuts: one, Buffer: records(1, 2, 71)})
+	deliver(t, v, 11) // the copy
+	if n := v.Flight(); n != 11 {
+		t.Fatalf("P9: a record that is in the buffer is answered: %d messages", n)
+	}
+	segmentAt(t, v, 0, api.Segment{Up: true, Epoch: 1, Cuts: one, Buffer: records(1, 2, 71)})
+	sync(t, v, 0)
+	v.net.Send(write(1, 0, 2, 99))
+	segmentAt(t, v, 0, api.Segment{Up: true, Epoch: 1, Cuts: one, Kept: records(1, 2, 71)})
+	deliver(t, v, v.Flight()-1)
+	if m, _ := v.Message(v.Flight() - 1); !reflect.DeepEqual(m, status(0, 1, 0)) {
+		t.Fatalf("P9: a record that is kept is answered by %+v", m)
+	}
+	segmentAt(t, v, 0, api.Segment{Up: true, Epoch: 1, Cuts: one, Kept: records(1, 2, 71)})
+	deliver(t, v, 0)
+	segmentAt(t, v, 0, api.Segment{Up: true, Epoch: 1, Cuts: one, Kept: records(1, 2, 71), Buffer: records(1, 1, 70)})
+	sync(t, v, 0)
+	segmentAt(t, v, 0, api.Segment{Up: true, Epoch: 1, Scl: 2, Cuts: one, Kept: records(1, 1, 70, 71)})
+	// a segment that is down
+	v.segments[1] = segment.Segment{}
+	before := v.Flight()
+	deliver(t, v, 0)
+	segmentAt(t, v, 1, api.Segment{})
+	if n := v.Flight(); n != before-1 {
+		t.Fatalf("P4: a segment that is down answers")
+	}
+}
+
+func TestP9Epochs(t *testing.T) {
+	v := fresh(t, 100)
+	open(t, v, 1)
+	arrive(t, v)
+	appends(t, v, 1, 70, 1, api.OK)
+	open(t, v, 2)
+	deliver(t, v, 6) // segment 0 is fenced by writer 2, and not yet cut
+	lose(t, v)
+	g := api.Segment{Up: true, Epoch: 2, Cuts: []api.Cut{{Epoch: 1}}}
+	segmentAt(t, v, 0, g)
+	// above the top, and at the segment's epoch
+	v.net.Send(write(2, 0, 1, 80))
+	deliver(t, v, 0)
+	inFlight(t, v)
+	segmentAt(t, v, 0, g)
+	// below the segment's epoch, and at the top
+	resend(t, v, 1, api.OK)
+	deliver(t, v, 0)
+	if m, _ := v.Message(v.Flight() - 1); !reflect.DeepEqual(m, api.Message{Kind: api.MRefused, From: 0, To: 1, Epoch: 2}) {
+		t.Fatalf("P9: an older MWrite is answered by %+v", m)
+	}
+	segmentAt(t, v, 0, g)
+	lose(t, v)
+	// above the segment's epoch
+	v.net.Send(write(2, 1, 1, 80))
+	deliver(t, v, 0)
+	inFlight(t, v)
+	segmentAt(t, v, 1, api.Segment{Up: true, Epoch: 1, Cuts: []api.Cut{{Epoch: 1}}})
+}
+
+func TestP9Resend(t *testing.T) {
+	// P8: what is one above what is noted is sent again
+	v := fresh(t, 100)
+	open(t, v, 1)
+	arrive(t, v)
+	appends(t, v, 1, 70, 1, api.OK)
+	appends(t, v, 1, 71, 2, api.OK)
+	deliver(t, v, 8, 2) // both records at segment 2
+	deliver(t, v, 0)    // record 1 at segment 0
+	sync(t, v, 2, 0)
+	deliver(t, v, 9, 9) // what they tell
+	lose(t, v)
+	resend(t, v, 1, api.OK)
+	inFlight(t, v, write(1, 0, 2, 71), write(1, 1, 1, 70), write(1, 3, 1, 70), write(1, 4, 1, 70), write(1, 5, 1, 70))
+	writerAt(t, v, 1, api.Open, 0, 2, 0)
+}
+
+func TestP10(t *testing.T) {
+	v := fresh(t, 100)
+	sync(t, v, 0, 1, 2, 3, 4, 5)
+	inFlight(t, v) // the epoch is 0
+	open(t, v, 1)
+	deliver(t, v, 0)
+	lose(t, v)
+	sync(t, v, 0)
+	inFlight(t, v) // fenced, without a cut
+	resend(t, v, 1, api.OK)
+	arrive(t, v)
+	for s := range api.Segments {
+		sync(t, v, s)
+		inFlight(t, v, status(s, 1, 0))
+		lose(t, v)
+	}
+	appends(t, v, 1, 70, 1, api.OK)
+	deliver(t, v, 0)
+	open(t, v, 2)
+	deliver(t, v, 5)
+	lose(t, v)
+	sync(t, v, 0)
+	inFlight(t, v) // its epoch is 2, its top 1
+	segmentAt(t, v, 0, api.Segment{Up: true, Epoch: 2, Scl: 1, Cuts: []api.Cut{{Epoch: 1}}, Kept: records(1, 1, 70)})
+	resend(t, v, 2, api.OK)
+	arrive(t, v)
+	sync(t, v, 0)
+	inFlight(t, v, status(0, 2, 1)) // to the writer of the epoch alone
+}
+
+func TestP10Errors(t *testing.T) {
+	v := fresh(t, 100)
+	open(t, v, 1)
+	arrive(t, v)
+	appends(t, v, 1, 70, 1, api.OK)
+	arrive(t, v)
+	v.segments[3] = segment.Segment{} // down
+	before := look(v)
+	if e := v.Sync(3); e != api.ErrDown {
+		t.Errorf("P10: Sync of a segment that is down = %d", e)
+	}
+	for _, s := range []int{least, -1, 6, 7, greatest} {
+		if e := v.Sync(s); e != api.ErrSegment {
+			t.Errorf("P10: Sync(%d) = %d", s, e)
+		}
+	}
+	unchanged(t, v, before)
+	sync(t, v, 2, 4)
+	inFlight(t, v, status(2, 1, 1), status(4, 1, 1))
+}
+
+func TestP10NetworkFull(t *testing.T) {
+	// what it has is kept, though the writer is not told
+	v := freshWith(t, 8, 6)
+	open(t, v, 1)
+	arrive(t, v)
+	resend(t, v, 1, api.OK) // MCut to segments 4 and 5 had no room
+	arrive(t, v)
+	appends(t, v, 1, 70, 1, api.OK)
+	arrive(t, v)
+	appends(t, v, 1, 71, 2, api.OK)
+	all := writes(1, 2, 71)
+	sync(t, v, 0, 1, 2, 3)
+	inFlight(t, v, all...)
+	for s := range 4 {
+		segmentAt(t, v, s, api.Segment{Up: true, Epoch: 1, Scl: 1, Cuts: []api.Cut{{Epoch: 1}}, Kept: records(1, 1, 70)})
+	}
+	lose(t, v)
+	writerAt(t, v, 1, api.Open, 0, 2, 0)
+	// told when the record comes once more
+	resend(t, v, 1, api.OK)
+	inFlight(t, v, writes(1, 1, 70)...)
+	arrive(t, v)
+	writerAt(t, v, 1, api.Open, 0, 2, 1)
 }
 
 // steady fails if what may only rise has fallen.
@@ -555,48 +1015,158 @@ func steady(t *testing.T, a, b picture) {
 	}
 }
 
+// history is what the test knows of a volume: what was appended, by writers and numbers, and what was durable once, by numbers.
+type history struct {
+	appended [api.MaxWriters + 1][api.MaxLog + 1]*int
+	durable  [api.MaxLog + 1]*api.Record
+}
+
 // step does one thing that is drawn.
-func step(r *rand.Rand, v *Volume) {
+func (h *history) step(r *rand.Rand, v *Volume) {
 	k := r.Intn(v.Flight() + 1)
-	switch r.Intn(12) {
+	switch r.Intn(20) {
 	case 0:
 		v.Drop(k)
 	case 1:
 		v.Copy(k)
 	case 2:
-		v.Resend(r.Intn(api.MaxWriters + 2))
+		v.Resend(r.Intn(len(v.writers) + 2))
 	case 3:
-		if r.Intn(4) == 0 {
+		if r.Intn(10) == 0 {
 			v.Open()
 		}
+	case 4, 5, 6:
+		w, value := r.Intn(len(v.writers)+2), r.Int()
+		if lsn, e := v.Append(w, value); e == api.OK {
+			h.appended[w][lsn] = &value
+		}
+	case 7, 8:
+		v.Sync(r.Intn(api.Segments))
 	default:
 		v.Deliver(k)
 	}
 }
 
+// bounded fails if a writer or a segment has what it can't have.
+func (h *history) bounded(t *testing.T, p picture, window int) {
+	t.Helper()
+	for i, w := range p.writers {
+		if w.Base > w.Next || w.Next > api.MaxLog || w.Durable > w.Next {
+			t.Fatalf("writer %d is at %+v", i+1, w)
+		}
+		if w.Phase == api.Open && (w.Durable < w.Base || w.Next > w.Durable+window) {
+			t.Fatalf("P9: writer %d is at %+v, with a window of %d", i+1, w, window)
+		}
+	}
+	for s, g := range p.segments {
+		had := map[int]bool{}
+		for _, l := range [][]api.Record{g.Kept, g.Buffer} {
+			for _, k := range l {
+				value := h.appended[k.Epoch][k.Lsn]
+				if value == nil || *value != k.Value || had[k.Lsn] {
+					t.Fatalf("P9: segment %d has record %+v, which nobody appended, or has it twice", s, k)
+				}
+				had[k.Lsn] = true
+			}
+		}
+	}
+}
+
+// onFour is the record of this number that four segments have kept, if there is one.
+func onFour(p picture, lsn int) (api.Record, bool) {
+	count := map[api.Record]int{}
+	for _, g := range p.segments {
+		for _, k := range g.Kept {
+			if k.Lsn != lsn {
+				continue
+			}
+			count[k]++
+			if count[k] == api.Quorum {
+				return k, true
+			}
+		}
+	}
+	return api.Record{}, false
+}
+
+// lasting fails if what was durable once is no longer kept by four segments, or not in the log of a writer that opens.
+func (h *history) lasting(t *testing.T, a, b picture) {
+	t.Helper()
+	far := 0
+	for lsn := 1; lsn <= api.MaxLog; lsn++ {
+		if h.durable[lsn] != nil {
+			far = lsn
+		}
+	}
+	for i, w := range b.writers {
+		if i < len(a.writers) && a.writers[i].Phase == api.Cutting && w.Phase == api.Open && w.Base < far {
+			t.Fatalf("P14: writer %d opens with base %d; %d was durable", i+1, w.Base, far)
+		}
+		for _, newer := range b.writers[i+1:] {
+			if newer.Phase == api.Open && w.Durable > newer.Base {
+				t.Fatalf("P14: writer %d is at %+v, though one with base %d has opened", i+1, w, newer.Base)
+			}
+		}
+		for lsn := 1; lsn <= w.Durable; lsn++ {
+			k, found := onFour(b, lsn)
+			if !found {
+				t.Fatalf("P14: record %d, which is durable, is not on four segments", lsn)
+			}
+			if h.durable[lsn] == nil {
+				h.durable[lsn] = &k
+			}
+			if *h.durable[lsn] != k {
+				t.Fatalf("P14: record %d was %+v, is %+v", lsn, *h.durable[lsn], k)
+			}
+		}
+	}
+}
+
 func TestDrawn(t *testing.T) {
 	r := rand.New(rand.NewSource(7))
-	for range 100 {
-		room := 1 + r.Intn(50)
-		v := fresh(t, room)
+	opened, durable := 0, 0
+	for range 200 {
+		room, window := 1+r.Intn(60), 1+r.Intn(api.MaxWindow)
+		v := freshWith(t, window, room)
 		open(t, v, 1)
+		h := &history{}
 		last := look(v)
-		for range 300 {
-			step(r, v)
+		for range 400 {
+			h.step(r, v)
 			now := look(v)
 			steady(t, last, now)
+			h.bounded(t, now, window)
+			h.lasting(t, last, now)
 			if n := len(now.messages); n > room || n != v.Flight() {
 				t.Fatalf("P4: %d messages in flight, room for %d", n, room)
 			}
 			last = now
 		}
 		n := len(last.writers)
-		for range 40 {
+		for range 60 {
 			arrive(t, v)
 			resend(t, v, n, api.OK)
+			arrive(t, v)
+			for s := range api.Segments {
+				sync(t, v, s)
+				arrive(t, v)
+			}
 		}
-		arrive(t, v)
-		writerAt(t, v, n, api.Open, 0, 0, 0)
+		now := look(v)
+		h.bounded(t, now, window)
+		h.lasting(t, last, now)
+		w := now.writers[n-1]
+		// four segments need not have the whole log, and so the writer need not open
+		if w.Phase == api.Open {
+			opened++
+			durable += w.Durable
+			if w.Durable != w.Next {
+				t.Fatalf("P14: writer %d is at %+v when all has arrived", n, w)
+			}
+		}
+	}
+	if opened < 50 || durable < 500 {
+		t.Errorf("too little is drawn: %d writers open in the end, with %d records", opened, durable)
 	}
 }
 
@@ -605,9 +1175,10 @@ func TestSameStepsSameVolume(t *testing.T) {
 	a, b := rand.New(rand.NewSource(3)), rand.New(rand.NewSource(3))
 	open(t, v, 1)
 	open(t, u, 1)
+	x, y := &history{}, &history{}
 	for range 500 {
-		step(a, v)
-		step(b, u)
+		x.step(a, v)
+		y.step(b, u)
 		unchanged(t, u, look(v))
 	}
 }

@@ -51,6 +51,37 @@ func (w *Writer) Due() []api.Message {
 	return list
 }
 
+// Append puts a record at the end of the log, and gives its number. The window is how many records may be under way.
+func (w *Writer) Append(value int, window int) (int, api.Errno) {
+	if w.phase == api.Fenced {
+		return 0, api.ErrFenced
+	}
+	if w.phase != api.Open {
+		return 0, api.ErrClosed
+	}
+	if w.next >= api.MaxLog {
+		return 0, api.ErrFull
+	}
+	if w.next >= w.durable+window {
+		return 0, api.ErrWindow
+	}
+	w.values = append(w.values, value)
+	w.next++
+	return w.next, api.OK
+}
+
+// Writes is MWrite of a record to each segment, if this writer has appended the record.
+func (w *Writer) Writes(lsn int) []api.Message {
+	var list []api.Message
+	for s := 0; s < api.Segments; s++ {
+		m, appended := w.write(s, lsn)
+		if appended {
+			list = append(list, m)
+		}
+	}
+	return list
+}
+
 // Arrive does what a message does at the writer, and gives what is to be sent then.
 func (w *Writer) Arrive(m api.Message) []api.Message {
 	if m.From < 0 || m.From >= api.Segments {

@@ -45,6 +45,13 @@ func messages(t *testing.T, got []api.Message, want ...api.Message) {
 	}
 }
 
+func appends(t *testing.T, w *Writer, value, window, lsn int, want api.Errno) {
+	t.Helper()
+	if n, e := w.Append(value, window); n != lsn || e != want {
+		t.Fatalf("P9: Append(%d) = %d, %d, want %d, %d", value, n, e, lsn, want)
+	}
+}
+
 // toEach is the same message to several segments.
 func toEach(m api.Message, segments ...int) []api.Message {
 	var list []api.Message
@@ -71,8 +78,9 @@ func opened(t *testing.T) Writer {
 	for s := range 4 {
 		hear(t, &w, status(s, 2, 2))
 	}
-	w.values = []int{30, 40, 50}
-	w.next = 5
+	for i, value := range []int{30, 40, 50} {
+		appends(t, &w, value, 8, i+3, api.OK)
+	}
 	state(t, &w, api.Open, 2, 5, 2)
 	return w
 }
@@ -264,4 +272,77 @@ func TestNoSegment(t *testing.T) {
 		hear(t, &w, status(s, 1, 1), fenced(s, 1, nil))
 	}
 	state(t, &w, api.Cutting, 0, 0, 0)
+}
+
+func TestAppend(t *testing.T) {
+	w := opened(t)
+	write := api.Message{Kind: api.MWrite, From: 2, Epoch: 2}
+	write.Lsn, write.Value = 3, 30
+	messages(t, w.Writes(3), toEach(write, 0, 1, 2, 3, 4, 5)...)
+	write.Lsn, write.Value = 5, 50
+	messages(t, w.Writes(5), toEach(write, 0, 1, 2, 3, 4, 5)...)
+	// those that it has not appended
+	for _, lsn := range []int{-1 << 63, -1, 0, 1, 2, 6, 41, 1<<63 - 1} {
+		messages(t, w.Writes(lsn))
+	}
+}
+
+func TestAppendNotOpen(t *testing.T) {
+	w := New(1)
+	appends(t, &w, 7, 1, 0, api.ErrClosed)
+	state(t, &w, api.Fencing, 0, 0, 0)
+	w = cutting(1, nil)
+	appends(t, &w, 7, 1, 0, api.ErrClosed)
+	state(t, &w, api.Cutting, 0, 0, 0)
+	w = opened(t)
+	hear(t, &w, api.Message{Kind: api.MRefused, From: 0, To: 2, Epoch: 3})
+	appends(t, &w, 7, 8, 0, api.ErrFenced)
+	state(t, &w, api.Fenced, 2, 5, 2)
+	messages(t, w.Writes(5))
+}
+
+func TestAppendWindow(t *testing.T) {
+	for window := 1; window <= api.MaxWindow; window++ {
+		w := cutting(2, []int{1, 1}, api.Cut{Epoch: 1})
+		for s := range 4 {
+			hear(t, &w, status(s, 2, 2))
+		}
+		for i := range window {
+			appends(t, &w, i, window, i+3, api.OK)
+		}
+		for range 2 {
+			appends(t, &w, 9, window, 0, api.ErrWindow)
+			state(t, &w, api.Open, 2, window+2, 2)
+		}
+		hear(t, &w, status(0, 2, 3), status(1, 2, 3), status(2, 2, 3))
+		appends(t, &w, 9, window, 0, api.ErrWindow)
+		hear(t, &w, status(5, 2, 3)) // the fourth
+		state(t, &w, api.Open, 2, window+2, 3)
+		appends(t, &w, 9, window, window+3, api.OK)
+		appends(t, &w, 9, window, 0, api.ErrWindow)
+	}
+}
+
+func TestAppendFull(t *testing.T) {
+	// one place is left behind the base
+	marks := make([]int, api.MaxLog-1)
+	for i := range marks {
+		marks[i] = 1
+	}
+	w := cutting(2, marks, api.Cut{Epoch: 1})
+	for s := range 4 {
+		hear(t, &w, status(s, 2, api.MaxLog-1))
+	}
+	state(t, &w, api.Open, 39, 39, 39)
+	appends(t, &w, 7, 8, api.MaxLog, api.OK)
+	appends(t, &w, 8, 8, 0, api.ErrFull)
+	appends(t, &w, 8, 1, 0, api.ErrFull) // the window is full, too
+	for s := range 4 {
+		hear(t, &w, status(s, 2, api.MaxLog))
+	}
+	state(t, &w, api.Open, 39, 40, 40)
+	appends(t, &w, 8, 8, 0, api.ErrFull)
+	state(t, &w, api.Open, 39, 40, 40)
+	hear(t, &w, status(4, 2, 0), status(5, 2, api.MaxLog-1))
+	messages(t, w.Due(), api.Message{Kind: api.MWrite, From: 2, To: 5, Epoch: 2, Lsn: api.MaxLog, Value: 7})
 }
