@@ -51,6 +51,10 @@ func (s *Segment) Arrive(m api.Message) (api.Message, bool) {
 		return s.cut(m), true
 	case api.MWrite:
 		return s.write(m)
+	case api.MNeed:
+		return s.give(m)
+	case api.MFill:
+		s.fill(m)
 	}
 	return api.Message{}, false
 }
@@ -58,6 +62,40 @@ func (s *Segment) Arrive(m api.Message) (api.Message, bool) {
 // Down tells whether the segment is down.
 func (s *Segment) Down() bool {
 	return !s.up
+}
+
+// Crash takes the segment down; only what is kept outlasts it.
+func (s *Segment) Crash() {
+	s.up = false
+	for i := 0; i < api.MaxLog; i++ {
+		if s.places[i].state == buffered {
+			s.places[i] = place{}
+		}
+	}
+}
+
+// Restart takes the segment up.
+func (s *Segment) Restart() {
+	s.up = true
+}
+
+// Newer tells whether a writer above this number has been here.
+func (s *Segment) Newer(writer int) bool {
+	return s.epoch > writer
+}
+
+// Value is the value of a record that the segment has kept, 0 if it has not.
+func (s *Segment) Value(lsn int) int {
+	p := s.at(lsn)
+	if p.state != kept {
+		return 0
+	}
+	return p.value
+}
+
+// Need asks another segment for the first record that is not kept here; of a full log that is one that nobody has.
+func (s *Segment) Need(number int, other int) api.Message {
+	return api.Message{Kind: api.MNeed, From: number, To: other, Lsn: s.scl() + 1}
 }
 
 // Sync keeps what is in the buffer, and gives the status that is to be sent, if the writer of the segment's epoch has cut here. A segment does not know its own number.
@@ -104,18 +142,47 @@ func (s *Segment) write(m api.Message) (api.Message, bool) {
 	if m.Epoch != s.epoch || m.Epoch != cuts.Top(s.cuts) {
 		return api.Message{}, false
 	}
-	if m.Lsn < 1 || m.Lsn > api.MaxLog {
-		return api.Message{}, false
-	}
-	i := m.Lsn - 1
-	if s.places[i].state == kept {
+	p := s.at(m.Lsn)
+	if p.state == kept {
 		// The writer may have missed that it is kept.
 		return s.status(m.To, m.From), true
 	}
-	if s.places[i].state != buffered {
-		s.places[i] = place{state: buffered, epoch: m.Epoch, value: m.Value}
-	}
+	s.take(m)
 	return api.Message{}, false
+}
+
+// give sends a record to the segment that needs it, if it is kept here: what is only in the buffer may be lost yet.
+func (s *Segment) give(m api.Message) (api.Message, bool) {
+	p := s.at(m.Lsn)
+	if p.state != kept {
+		return api.Message{}, false
+	}
+	return api.Message{Kind: api.MFill, From: m.To, To: m.From, Lsn: m.Lsn, Epoch: p.epoch, Value: p.value}, true
+}
+
+// fill takes a record from another segment, unless it has been cut off here, or is of a writer that is unknown here.
+func (s *Segment) fill(m api.Message) {
+	if cuts.Good(s.cuts, m.Lsn, m.Epoch) {
+		s.take(m)
+	}
+}
+
+// take puts the record of a message into the buffer, if the segment has none of its number.
+func (s *Segment) take(m api.Message) {
+	if m.Lsn < 1 || m.Lsn > api.MaxLog {
+		return
+	}
+	if s.places[m.Lsn-1].state == 0 {
+		s.places[m.Lsn-1] = place{state: buffered, epoch: m.Epoch, value: m.Value}
+	}
+}
+
+// at is the place of a number, an empty one if there is no such number.
+func (s *Segment) at(lsn int) place {
+	if lsn < 1 || lsn > api.MaxLog {
+		return place{}
+	}
+	return s.places[lsn-1]
 }
 
 func (s *Segment) refusal(m api.Message) api.Message {

@@ -68,8 +68,9 @@ func TestState(t *testing.T) {
 	got := s.State()
 	spoil(&got)
 	state(t, &s, want)
-	s.up = false
+	s.Crash()
 	want.Up = false
+	want.Buffer = nil
 	state(t, &s, want)
 }
 
@@ -212,7 +213,7 @@ func TestDown(t *testing.T) {
 	if s.Down() {
 		t.Errorf("a segment that is up is down")
 	}
-	s.up = false
+	s.Crash()
 	if !s.Down() {
 		t.Errorf("a segment that is down is up")
 	}
@@ -349,4 +350,131 @@ func TestSyncTellsNobody(t *testing.T) {
 		Up: true, Epoch: 2, Scl: 1, Cuts: []api.Cut{{Epoch: 1}},
 		Kept: []api.Record{{Lsn: 1, Epoch: 1, Value: 10}},
 	})
+}
+
+func need(from, to, lsn int) api.Message {
+	return api.Message{Kind: api.MNeed, From: from, To: to, Lsn: lsn}
+}
+
+func fill(from, to, lsn, epoch, value int) api.Message {
+	return api.Message{Kind: api.MFill, From: from, To: to, Lsn: lsn, Epoch: epoch, Value: value}
+}
+
+func TestNeed(t *testing.T) {
+	s := New()
+	asks := func(lsn int) {
+		t.Helper()
+		if m := s.Need(3, 5); !same(m, need(3, 5, lsn)) {
+			t.Fatalf("P11: it asks by %+v, want record %d", m, lsn)
+		}
+	}
+	asks(1)
+	s.put(buffered, 1, 1, 10)
+	asks(1) // it may be lost yet
+	s.put(kept, 2, 1, 20)
+	asks(1)
+	s.put(kept, 1, 1, 10)
+	s.put(kept, 4, 1, 40)
+	asks(3)
+	for lsn := range api.MaxLog - 1 {
+		s.put(kept, lsn+1, 1, 0)
+	}
+	asks(api.MaxLog)
+	s.put(kept, api.MaxLog, 1, 0)
+	asks(api.MaxLog + 1)
+}
+
+func TestGive(t *testing.T) {
+	// its epoch and its cuts do not matter
+	for _, s := range []Segment{New(), with(5), with(2, api.Cut{Epoch: 1}, api.Cut{Epoch: 2, At: 2})} {
+		s.put(kept, 1, 1, -1<<63)
+		s.put(buffered, 2, 1, 20)
+		s.put(kept, 4, 2, 40)
+		s.put(kept, api.MaxLog, 2, 1<<63-1)
+		before := s.State()
+		arrive(t, &s, need(5, 3, 1), fill(3, 5, 1, 1, -1<<63))
+		arrive(t, &s, need(0, 3, 4), fill(3, 0, 4, 2, 40)) // behind a hole
+		arrive(t, &s, need(5, 3, api.MaxLog), fill(3, 5, api.MaxLog, 2, 1<<63-1))
+		arrive(t, &s, need(5, 3, 2), api.Message{}) // in the buffer alone
+		for _, lsn := range []int{-1 << 63, -1, 0, 3, 5, 39, 41, 1<<63 - 1} {
+			arrive(t, &s, need(5, 3, lsn), api.Message{})
+		}
+		state(t, &s, before)
+	}
+}
+
+func TestFill(t *testing.T) {
+	list := []api.Cut{{Epoch: 1}, {Epoch: 3, At: 4}, {Epoch: 4, At: 6}}
+	s := with(5, list...) // a newer writer has fenced, and not yet cut
+	s.put(kept, 1, 1, 10)
+	s.put(buffered, 2, 1, 20)
+	before := s.State()
+	for _, m := range []api.Message{
+		fill(0, 3, 1, 1, 7), fill(0, 3, 2, 1, 7), // it has these
+		fill(0, 3, 1, 3, 7), fill(0, 3, 2, 4, 7), // by another writer, too
+		fill(0, 3, 5, 1, 7), fill(0, 3, 7, 1, 7), // cut off by writer 3
+		fill(0, 3, 7, 3, 7), fill(0, 3, 40, 3, 7), // cut off by writer 4
+		fill(0, 3, 3, 2, 7), fill(0, 3, 3, 5, 7), fill(0, 3, 3, 0, 7), // of no writer of the list
+		fill(0, 3, 0, 1, 7), fill(0, 3, -1, 1, 7), fill(0, 3, -1<<63, 1, 7), fill(0, 3, 41, 4, 7), fill(0, 3, 1<<63-1, 4, 7),
+	} {
+		arrive(t, &s, m, api.Message{})
+		state(t, &s, before)
+	}
+	for _, m := range []api.Message{
+		fill(0, 3, 40, 4, -1<<63), fill(1, 3, 4, 1, 1<<63-1), fill(2, 3, 6, 3, 60), fill(2, 3, 6, 3, 61), fill(2, 3, 7, 4, 70),
+	} {
+		arrive(t, &s, m, api.Message{})
+	}
+	before.Buffer = []api.Record{{Lsn: 2, Epoch: 1, Value: 20}, {Lsn: 4, Epoch: 1, Value: 1<<63 - 1}, {Lsn: 6, Epoch: 3, Value: 60}, {Lsn: 7, Epoch: 4, Value: 70}, {Lsn: 40, Epoch: 4, Value: -1 << 63}}
+	state(t, &s, before)
+	// without cuts no record is good
+	s = with(1)
+	arrive(t, &s, fill(0, 3, 1, 1, 7), api.Message{})
+	arrive(t, &s, fill(0, 3, 1, 0, 7), api.Message{})
+	state(t, &s, api.Segment{Up: true, Epoch: 1})
+}
+
+func TestCrash(t *testing.T) {
+	s := with(3, api.Cut{Epoch: 1}, api.Cut{Epoch: 2, At: 2})
+	s.put(buffered, 1, 1, 10)
+	s.put(kept, 2, 1, 20)
+	s.put(kept, 3, 2, 30)
+	s.put(buffered, 40, 2, 400)
+	want := api.Segment{
+		Epoch: 3, Cuts: []api.Cut{{Epoch: 1}, {Epoch: 2, At: 2}},
+		Kept: []api.Record{{Lsn: 2, Epoch: 1, Value: 20}, {Lsn: 3, Epoch: 2, Value: 30}},
+	}
+	s.Crash()
+	state(t, &s, want)
+	s.Restart()
+	want.Up = true
+	state(t, &s, want)
+	if s.Down() {
+		t.Errorf("P12: it is down behind Restart")
+	}
+	// what was lost may come again, by any writer
+	arrive(t, &s, fill(0, 3, 1, 1, 11), api.Message{})
+	want.Buffer = []api.Record{{Lsn: 1, Epoch: 1, Value: 11}}
+	state(t, &s, want)
+}
+
+func TestNewer(t *testing.T) {
+	s := with(3, api.Cut{Epoch: 5})
+	for w, want := range []bool{true, true, true, false, false, false} {
+		if s.Newer(w) != want {
+			t.Errorf("P13: epoch 3 is above %d: %v", w, !want)
+		}
+	}
+}
+
+func TestValue(t *testing.T) {
+	s := with(1, api.Cut{Epoch: 1})
+	s.put(kept, 1, 1, -7)
+	s.put(buffered, 2, 1, 20)
+	s.put(kept, api.MaxLog, 1, 400)
+	for lsn, want := range map[int]int{1: -7, api.MaxLog: 400, 2: 0, 3: 0, 0: 0, -1: 0, 41: 0, -1 << 63: 0, 1<<63 - 1: 0} {
+		if got := s.Value(lsn); got != want {
+			t.Errorf("P13: the value of record %d is %d, want %d", lsn, got, want)
+		}
+	}
 }

@@ -153,16 +153,64 @@ func (v *Volume) Sync(s int) api.Errno {
 }
 
 // Gossip lets segment a ask segment b for its next record (P11).
-func (v *Volume) Gossip(a int, b int) api.Errno { return api.OK }
+func (v *Volume) Gossip(a int, b int) api.Errno {
+	if !isSegment(a) || !isSegment(b) || a == b {
+		return api.ErrSegment
+	}
+	if v.segments[a].Down() {
+		return api.ErrDown
+	}
+	m := v.segments[a].Need(a, b)
+	v.net.Send(m)
+	return api.OK
+}
 
 // Crash takes a segment down (P12).
-func (v *Volume) Crash(s int) api.Errno { return api.OK }
+func (v *Volume) Crash(s int) api.Errno {
+	if !isSegment(s) {
+		return api.ErrSegment
+	}
+	if v.segments[s].Down() {
+		return api.ErrDown
+	}
+	v.segments[s].Crash()
+	return api.OK
+}
 
 // Restart takes a segment up (P12).
-func (v *Volume) Restart(s int) api.Errno { return api.OK }
+func (v *Volume) Restart(s int) api.Errno {
+	if !isSegment(s) {
+		return api.ErrSegment
+	}
+	if !v.segments[s].Down() {
+		return api.ErrUp
+	}
+	v.segments[s].Restart()
+	return api.OK
+}
 
 // Read tells the value of a record (P13).
-func (v *Volume) Read(w int, lsn int) (int, api.Errno) { return 0, api.OK }
+func (v *Volume) Read(w int, lsn int) (int, api.Errno) {
+	if !v.isWriter(w) {
+		return 0, api.ErrWriter
+	}
+	e := v.writers[w-1].Readable(lsn)
+	if e != api.OK {
+		return 0, e
+	}
+	for s := 0; s < api.Segments; s++ {
+		reaches := v.writers[w-1].Reaches(s, lsn)
+		if !reaches || v.segments[s].Down() {
+			continue
+		}
+		if v.segments[s].Newer(w) {
+			v.writers[w-1].Stop()
+			return 0, api.ErrFenced
+		}
+		return v.segments[s].Value(lsn), api.OK
+	}
+	return 0, api.ErrDown
+}
 
 func isSegment(s int) bool {
 	return s >= 0 && s < api.Segments

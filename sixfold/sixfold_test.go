@@ -1,12 +1,10 @@
 package sixfold
 
 import (
-	"math/rand"
 	"reflect"
 	"testing"
 
 	"sixfold/api"
-	"sixfold/segment"
 )
 
 const (
@@ -78,6 +76,38 @@ func sync(t *testing.T, v *Volume, l ...int) {
 		if e := v.Sync(s); e != api.OK {
 			t.Fatalf("P10: Sync(%d) = %d", s, e)
 		}
+	}
+}
+
+func gossip(t *testing.T, v *Volume, a, b int) {
+	t.Helper()
+	if e := v.Gossip(a, b); e != api.OK {
+		t.Fatalf("P11: Gossip(%d, %d) = %d", a, b, e)
+	}
+}
+
+func crash(t *testing.T, v *Volume, l ...int) {
+	t.Helper()
+	for _, s := range l {
+		if e := v.Crash(s); e != api.OK {
+			t.Fatalf("P12: Crash(%d) = %d", s, e)
+		}
+	}
+}
+
+func restart(t *testing.T, v *Volume, l ...int) {
+	t.Helper()
+	for _, s := range l {
+		if e := v.Restart(s); e != api.OK {
+			t.Fatalf("P12: Restart(%d) = %d", s, e)
+		}
+	}
+}
+
+func reads(t *testing.T, v *Volume, w, lsn, value int, want api.Errno) {
+	t.Helper()
+	if n, e := v.Read(w, lsn); n != value || e != want {
+		t.Fatalf("P13: Read(%d, %d) = %d, %d, want %d, %d", w, lsn, n, e, value, want)
 	}
 }
 
@@ -169,6 +199,18 @@ func write(w, s, lsn, value int) api.Message {
 	return api.Message{Kind: api.MWrite, From: w, To: s, Epoch: w, Lsn: lsn, Value: value}
 }
 
+func need(from, to, lsn int) api.Message {
+	return api.Message{Kind: api.MNeed, From: from, To: to, Lsn: lsn}
+}
+
+func filled(from, to, lsn, epoch, value int) api.Message {
+	return api.Message{Kind: api.MFill, From: from, To: to, Lsn: lsn, Epoch: epoch, Value: value}
+}
+
+func refused(s, w, epoch int) api.Message {
+	return api.Message{Kind: api.MRefused, From: s, To: w, Epoch: epoch}
+}
+
 // writes is MWrite of one record to all segments.
 func writes(w, lsn, value int) []api.Message {
 	var list []api.Message
@@ -198,8 +240,10 @@ func TestP1WrongNumbers(t *testing.T) {
 		if g, e := v.Segment(s); !reflect.DeepEqual(g, api.Segment{}) || e != api.ErrSegment {
 			t.Errorf("P5: Segment(%d) = %+v, %d", s, g, e)
 		}
-		if e := v.Sync(s); e != api.ErrSegment {
-			t.Errorf("P10: Sync(%d) = %d", s, e)
+		for _, e := range []api.Errno{v.Sync(s), v.Crash(s), v.Restart(s), v.Gossip(s, 0), v.Gossip(0, s), v.Gossip(s, s)} {
+			if e != api.ErrSegment {
+				t.Errorf("P10 to P12: at segment %d: %d", s, e)
+			}
 		}
 	}
 	for _, w := range []int{least, -1, 0, 3, 9, greatest} {
@@ -208,13 +252,17 @@ func TestP1WrongNumbers(t *testing.T) {
 		}
 		resend(t, v, w, api.ErrWriter)
 		appends(t, v, w, 70, 0, api.ErrWriter)
+		for _, lsn := range []int{least, -1, 0, 1, 41, greatest} {
+			reads(t, v, w, lsn, 0, api.ErrWriter)
+		}
 	}
 	unchanged(t, v, before)
 }
 
-func TestP1OtherCallsEnd(t *testing.T) {
+func TestP1CallsEnd(t *testing.T) {
 	v := fresh(t, 20)
 	open(t, v, 1)
+	arrive(t, v)
 	for _, n := range []int{least, -1, 0, 1, 5, 6, 40, 41, greatest} {
 		for _, k := range []int{least, -1, 0, 1, 6, 41, greatest} {
 			v.Append(n, k)
@@ -223,8 +271,13 @@ func TestP1OtherCallsEnd(t *testing.T) {
 		}
 		v.Sync(n)
 		v.Crash(n)
+		v.Deliver(n)
+		v.Copy(n)
+		v.Resend(n)
 		v.Restart(n)
+		v.Drop(n)
 	}
+	arrive(t, v)
 }
 
 func TestP2Lists(t *testing.T) {
@@ -440,8 +493,7 @@ func TestP6Refused(t *testing.T) {
 	open(t, v, 2)
 	deliver(t, v, 6) // MFence of 2 at segment 0
 	deliver(t, v, 0) // MFence of 1 there
-	refused := api.Message{Kind: api.MRefused, From: 0, To: 1, Epoch: 2}
-	if m, _ := v.Message(v.Flight() - 1); !reflect.DeepEqual(m, refused) {
+	if m, _ := v.Message(v.Flight() - 1); !reflect.DeepEqual(m, refused(0, 1, 2)) {
 		t.Fatalf("P6: an older MFence is answered by %+v", m)
 	}
 	segmentAt(t, v, 0, api.Segment{Up: true, Epoch: 2})
@@ -466,7 +518,7 @@ func TestP6RefusedWhenOpen(t *testing.T) {
 	writerAt(t, v, 1, api.Open, 0, 0, 0) // it does not know yet
 	v.net.Send(cut(1, 3, api.Cut{Epoch: 1}))
 	deliver(t, v, 0)
-	inFlight(t, v, api.Message{Kind: api.MRefused, From: 3, To: 1, Epoch: 2})
+	inFlight(t, v, refused(3, 1, 2))
 	deliver(t, v, 0)
 	writerAt(t, v, 1, api.Fenced, 0, 0, 0)
 	segmentAt(t, v, 3, api.Segment{Up: true, Epoch: 2, Cuts: []api.Cut{{Epoch: 1}, {Epoch: 2}}})
@@ -594,8 +646,7 @@ func records(epoch, first int, values ...int) []api.Record {
 	return list
 }
 
-func TestP9Examples(t *testing.T) {
-	// example 3, but for Read
+func TestExamples3To5(t *testing.T) {
 	v := fresh(t, 100)
 	one := []api.Cut{{Epoch: 1}}
 	open(t, v, 1)
@@ -623,6 +674,25 @@ func TestP9Examples(t *testing.T) {
 	segmentAt(t, v, 3, api.Segment{Up: true, Epoch: 1, Scl: 2, Cuts: one, Kept: records(1, 1, 70, 71)})
 	arrive(t, v)
 	writerAt(t, v, 1, api.Open, 0, 2, 2)
+	reads(t, v, 1, 2, 71, api.OK)
+	reads(t, v, 1, 3, 0, api.ErrNone)
+	// example 4
+	crash(t, v, 5)
+	segmentAt(t, v, 5, api.Segment{Epoch: 1, Cuts: one})
+	restart(t, v, 5)
+	segmentAt(t, v, 5, api.Segment{Up: true, Epoch: 1, Cuts: one})
+	gossip(t, v, 5, 0)
+	inFlight(t, v, need(5, 0, 1))
+	deliver(t, v, 0)
+	inFlight(t, v, filled(0, 5, 1, 1, 70))
+	arrive(t, v)
+	segmentAt(t, v, 5, api.Segment{Up: true, Epoch: 1, Cuts: one, Buffer: records(1, 1, 70)})
+	gossip(t, v, 5, 4)
+	inFlight(t, v, need(5, 4, 1))
+	deliver(t, v, 0)
+	inFlight(t, v)
+	segmentAt(t, v, 4, api.Segment{Up: true, Epoch: 1, Cuts: one, Buffer: records(1, 1, 70, 71)})
+	segmentAt(t, v, 5, api.Segment{Up: true, Epoch: 1, Cuts: one, Buffer: records(1, 1, 70)})
 	// example 5
 	open(t, v, 2)
 	deliver(t, v, 0, 0, 0, 0)
@@ -636,7 +706,7 @@ func TestP9Examples(t *testing.T) {
 	appends(t, v, 1, 73, 3, api.OK)
 	writerAt(t, v, 1, api.Open, 0, 3, 2)
 	deliver(t, v, 0)
-	if m, _ := v.Message(5); !reflect.DeepEqual(m, api.Message{Kind: api.MRefused, From: 0, To: 1, Epoch: 2}) {
+	if m, _ := v.Message(5); !reflect.DeepEqual(m, refused(0, 1, 2)) {
 		t.Fatalf("P9: MWrite of an older writer is answered by %+v", m)
 	}
 	arrive(t, v)
@@ -646,10 +716,10 @@ func TestP9Examples(t *testing.T) {
 	for s := range 4 {
 		segmentAt(t, v, s, api.Segment{Up: true, Epoch: 2, Scl: 2, Cuts: two, Kept: records(1, 1, 70, 71)})
 	}
+	segmentAt(t, v, 5, api.Segment{Up: true, Epoch: 2, Cuts: two, Buffer: records(1, 1, 70)})
 }
 
-func TestP9CutOff(t *testing.T) {
-	// example 6
+func TestExample6(t *testing.T) {
 	for _, first := range []int{1, 0} {
 		v := fresh(t, 100)
 		open(t, v, 1)
@@ -680,6 +750,18 @@ func TestP9CutOff(t *testing.T) {
 		// what an earlier writer appended is not sent again
 		resend(t, v, 2, api.OK)
 		inFlight(t, v)
+		for _, s := range []int{5, 2, 4} {
+			writerAt(t, v, 2, api.Cutting, 1, 1, 0)
+			gossip(t, v, s, 0)
+			arrive(t, v)
+			segmentAt(t, v, s, api.Segment{Up: true, Epoch: 2, Cuts: g.Cuts, Buffer: records(1, 1, 80)})
+			writerAt(t, v, 2, api.Cutting, 1, 1, 0)
+			sync(t, v, s)
+			arrive(t, v)
+			segmentAt(t, v, s, g)
+		}
+		writerAt(t, v, 2, api.Open, 1, 1, 1)
+		reads(t, v, 2, 1, 80, api.OK)
 	}
 }
 
@@ -857,14 +939,6 @@ func TestP9Arrivals(t *testing.T) {
 	segmentAt(t, v, 0, api.Segment{Up: true, Epoch: 1, Cuts: one, Kept: records(1, 2, 71), Buffer: records(1, 1, 70)})
 	sync(t, v, 0)
 	segmentAt(t, v, 0, api.Segment{Up: true, Epoch: 1, Scl: 2, Cuts: one, Kept: records(1, 1, 70, 71)})
-	// a segment that is down
-	v.segments[1] = segment.Segment{}
-	before := v.Flight()
-	deliver(t, v, 0)
-	segmentAt(t, v, 1, api.Segment{})
-	if n := v.Flight(); n != before-1 {
-		t.Fatalf("P4: a segment that is down answers")
-	}
 }
 
 func TestP9Epochs(t *testing.T) {
@@ -885,7 +959,7 @@ func TestP9Epochs(t *testing.T) {
 	// below the segment's epoch, and at the top
 	resend(t, v, 1, api.OK)
 	deliver(t, v, 0)
-	if m, _ := v.Message(v.Flight() - 1); !reflect.DeepEqual(m, api.Message{Kind: api.MRefused, From: 0, To: 1, Epoch: 2}) {
+	if m, _ := v.Message(v.Flight() - 1); !reflect.DeepEqual(m, refused(0, 1, 2)) {
 		t.Fatalf("P9: an older MWrite is answered by %+v", m)
 	}
 	segmentAt(t, v, 0, g)
@@ -950,7 +1024,7 @@ func TestP10Errors(t *testing.T) {
 	arrive(t, v)
 	appends(t, v, 1, 70, 1, api.OK)
 	arrive(t, v)
-	v.segments[3] = segment.Segment{} // down
+	crash(t, v, 3)
 	before := look(v)
 	if e := v.Sync(3); e != api.ErrDown {
 		t.Errorf("P10: Sync of a segment that is down = %d", e)
@@ -988,197 +1062,4 @@ func TestP10NetworkFull(t *testing.T) {
 	inFlight(t, v, writes(1, 1, 70)...)
 	arrive(t, v)
 	writerAt(t, v, 1, api.Open, 0, 2, 1)
-}
-
-// steady fails if what may only rise has fallen.
-func steady(t *testing.T, a, b picture) {
-	t.Helper()
-	for s := range a.segments {
-		x, y := a.segments[s], b.segments[s]
-		if y.Epoch < x.Epoch || !y.Up {
-			t.Fatalf("segment %d went from %+v to %+v", s, x, y)
-		}
-		for i := 1; i < len(y.Cuts); i++ {
-			if y.Cuts[i].Epoch <= y.Cuts[i-1].Epoch {
-				t.Fatalf("the epochs of segment %d do not rise: %v", s, y.Cuts)
-			}
-		}
-	}
-	for w := range a.writers {
-		x, y := a.writers[w], b.writers[w]
-		if y.Phase < x.Phase || y.Base < x.Base || y.Next < x.Next || y.Durable < x.Durable {
-			t.Fatalf("writer %d went from %+v to %+v", w+1, x, y)
-		}
-		if x.Phase == api.Fenced && x != y {
-			t.Fatalf("writer %d went from %+v to %+v", w+1, x, y)
-		}
-	}
-}
-
-// history is what the test knows of a volume: what was appended, by writers and numbers, and what was durable once, by numbers.
-type history struct {
-	appended [api.MaxWriters + 1][api.MaxLog + 1]*int
-	durable  [api.MaxLog + 1]*api.Record
-}
-
-// step does one thing that is drawn.
-func (h *history) step(r *rand.Rand, v *Volume) {
-	k := r.Intn(v.Flight() + 1)
-	switch r.Intn(20) {
-	case 0:
-		v.Drop(k)
-	case 1:
-		v.Copy(k)
-	case 2:
-		v.Resend(r.Intn(len(v.writers) + 2))
-	case 3:
-		if r.Intn(10) == 0 {
-			v.Open()
-		}
-	case 4, 5, 6:
-		w, value := r.Intn(len(v.writers)+2), r.Int()
-		if lsn, e := v.Append(w, value); e == api.OK {
-			h.appended[w][lsn] = &value
-		}
-	case 7, 8:
-		v.Sync(r.Intn(api.Segments))
-	default:
-		v.Deliver(k)
-	}
-}
-
-// bounded fails if a writer or a segment has what it can't have.
-func (h *history) bounded(t *testing.T, p picture, window int) {
-	t.Helper()
-	for i, w := range p.writers {
-		if w.Base > w.Next || w.Next > api.MaxLog || w.Durable > w.Next {
-			t.Fatalf("writer %d is at %+v", i+1, w)
-		}
-		if w.Phase == api.Open && (w.Durable < w.Base || w.Next > w.Durable+window) {
-			t.Fatalf("P9: writer %d is at %+v, with a window of %d", i+1, w, window)
-		}
-	}
-	for s, g := range p.segments {
-		had := map[int]bool{}
-		for _, l := range [][]api.Record{g.Kept, g.Buffer} {
-			for _, k := range l {
-				value := h.appended[k.Epoch][k.Lsn]
-				if value == nil || *value != k.Value || had[k.Lsn] {
-					t.Fatalf("P9: segment %d has record %+v, which nobody appended, or has it twice", s, k)
-				}
-				had[k.Lsn] = true
-			}
-		}
-	}
-}
-
-// onFour is the record of this number that four segments have kept, if there is one.
-func onFour(p picture, lsn int) (api.Record, bool) {
-	count := map[api.Record]int{}
-	for _, g := range p.segments {
-		for _, k := range g.Kept {
-			if k.Lsn != lsn {
-				continue
-			}
-			count[k]++
-			if count[k] == api.Quorum {
-				return k, true
-			}
-		}
-	}
-	return api.Record{}, false
-}
-
-// lasting fails if what was durable once is no longer kept by four segments, or not in the log of a writer that opens.
-func (h *history) lasting(t *testing.T, a, b picture) {
-	t.Helper()
-	far := 0
-	for lsn := 1; lsn <= api.MaxLog; lsn++ {
-		if h.durable[lsn] != nil {
-			far = lsn
-		}
-	}
-	for i, w := range b.writers {
-		if i < len(a.writers) && a.writers[i].Phase == api.Cutting && w.Phase == api.Open && w.Base < far {
-			t.Fatalf("P14: writer %d opens with base %d; %d was durable", i+1, w.Base, far)
-		}
-		for _, newer := range b.writers[i+1:] {
-			if newer.Phase == api.Open && w.Durable > newer.Base {
-				t.Fatalf("P14: writer %d is at %+v, though one with base %d has opened", i+1, w, newer.Base)
-			}
-		}
-		for lsn := 1; lsn <= w.Durable; lsn++ {
-			k, found := onFour(b, lsn)
-			if !found {
-				t.Fatalf("P14: record %d, which is durable, is not on four segments", lsn)
-			}
-			if h.durable[lsn] == nil {
-				h.durable[lsn] = &k
-			}
-			if *h.durable[lsn] != k {
-				t.Fatalf("P14: record %d was %+v, is %+v", lsn, *h.durable[lsn], k)
-			}
-		}
-	}
-}
-
-func TestDrawn(t *testing.T) {
-	r := rand.New(rand.NewSource(7))
-	opened, durable := 0, 0
-	for range 200 {
-		room, window := 1+r.Intn(60), 1+r.Intn(api.MaxWindow)
-		v := freshWith(t, window, room)
-		open(t, v, 1)
-		h := &history{}
-		last := look(v)
-		for range 400 {
-			h.step(r, v)
-			now := look(v)
-			steady(t, last, now)
-			h.bounded(t, now, window)
-			h.lasting(t, last, now)
-			if n := len(now.messages); n > room || n != v.Flight() {
-				t.Fatalf("P4: %d messages in flight, room for %d", n, room)
-			}
-			last = now
-		}
-		n := len(last.writers)
-		for range 60 {
-			arrive(t, v)
-			resend(t, v, n, api.OK)
-			arrive(t, v)
-			for s := range api.Segments {
-				sync(t, v, s)
-				arrive(t, v)
-			}
-		}
-		now := look(v)
-		h.bounded(t, now, window)
-		h.lasting(t, last, now)
-		w := now.writers[n-1]
-		// four segments need not have the whole log, and so the writer need not open
-		if w.Phase == api.Open {
-			opened++
-			durable += w.Durable
-			if w.Durable != w.Next {
-				t.Fatalf("P14: writer %d is at %+v when all has arrived", n, w)
-			}
-		}
-	}
-	if opened < 50 || durable < 500 {
-		t.Errorf("too little is drawn: %d writers open in the end, with %d records", opened, durable)
-	}
-}
-
-func TestSameStepsSameVolume(t *testing.T) {
-	v, u := fresh(t, 30), fresh(t, 30)
-	a, b := rand.New(rand.NewSource(3)), rand.New(rand.NewSource(3))
-	open(t, v, 1)
-	open(t, u, 1)
-	x, y := &history{}, &history{}
-	for range 500 {
-		x.step(a, v)
-		y.step(b, u)
-		unchanged(t, u, look(v))
-	}
 }

@@ -39,6 +39,14 @@ func (w *Writer) Fenced() bool {
 	return w.phase == api.Fenced
 }
 
+// Stop fences the writer off. It sends nothing any more, so what it would send is not kept.
+func (w *Writer) Stop() {
+	w.phase = api.Fenced
+	w.notes = nil
+	w.cuts = nil
+	w.values = nil
+}
+
 // Due is what the writer has no answer to yet, in the order of the segments.
 func (w *Writer) Due() []api.Message {
 	var list []api.Message
@@ -82,6 +90,28 @@ func (w *Writer) Writes(lsn int) []api.Message {
 	return list
 }
 
+// Readable is OK if the record is durable by what the writer knows, else what stands against reading it.
+func (w *Writer) Readable(lsn int) api.Errno {
+	if w.phase == api.Fenced {
+		return api.ErrFenced
+	}
+	if w.phase != api.Open {
+		return api.ErrClosed
+	}
+	if lsn < 1 || lsn > w.durable {
+		return api.ErrNone
+	}
+	return api.OK
+}
+
+// Reaches tells whether the writer has noted that a segment goes as far as this record.
+func (w *Writer) Reaches(s int, lsn int) bool {
+	if s < 0 || s >= api.Segments {
+		return false
+	}
+	return w.noted[s] >= lsn
+}
+
 // Arrive does what a message does at the writer, and gives what is to be sent then.
 func (w *Writer) Arrive(m api.Message) []api.Message {
 	if m.From < 0 || m.From >= api.Segments {
@@ -93,7 +123,7 @@ func (w *Writer) Arrive(m api.Message) []api.Message {
 	case api.MStatus:
 		w.hearStatus(m)
 	case api.MRefused:
-		w.stop()
+		w.Stop()
 	}
 	return nil
 }
@@ -198,14 +228,6 @@ func (w *Writer) reaching(n int) int {
 		}
 	}
 	return count
-}
-
-// stop fences the writer off. It sends nothing any more, so what it would send is not kept.
-func (w *Writer) stop() {
-	w.phase = api.Fenced
-	w.notes = nil
-	w.cuts = nil
-	w.values = nil
 }
 
 // dueTo is what the writer has no answer to yet from one segment.

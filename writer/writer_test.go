@@ -346,3 +346,54 @@ func TestAppendFull(t *testing.T) {
 	hear(t, &w, status(4, 2, 0), status(5, 2, api.MaxLog-1))
 	messages(t, w.Due(), api.Message{Kind: api.MWrite, From: 2, To: 5, Epoch: 2, Lsn: api.MaxLog, Value: 7})
 }
+
+func readable(t *testing.T, w *Writer, want api.Errno, numbers ...int) {
+	t.Helper()
+	for _, lsn := range numbers {
+		if e := w.Readable(lsn); e != want {
+			t.Fatalf("P13: of record %d: %d, want %d", lsn, e, want)
+		}
+	}
+}
+
+func TestReadable(t *testing.T) {
+	outside := []int{-1 << 63, -1, 0, 41, 1<<63 - 1}
+	w := New(2)
+	readable(t, &w, api.ErrClosed, 1)
+	readable(t, &w, api.ErrClosed, outside...)
+	w = cutting(2, []int{1, 1}, api.Cut{Epoch: 1})
+	readable(t, &w, api.ErrClosed, 1, 2, 3)
+	readable(t, &w, api.ErrClosed, outside...)
+	w = opened(t)
+	readable(t, &w, api.OK, 1, 2)
+	readable(t, &w, api.ErrNone, 3, 4, 5, 6)
+	readable(t, &w, api.ErrNone, outside...)
+	for _, s := range []int{1, 2, 4, 5} {
+		readable(t, &w, api.ErrNone, 3)
+		hear(t, &w, status(s, 2, 4))
+	}
+	readable(t, &w, api.OK, 1, 2, 3, 4)
+	readable(t, &w, api.ErrNone, 5)
+	state(t, &w, api.Open, 2, 5, 4)
+	w.Stop()
+	state(t, &w, api.Fenced, 2, 5, 4)
+	readable(t, &w, api.ErrFenced, 1, 4, 5)
+	readable(t, &w, api.ErrFenced, outside...)
+}
+
+func TestReaches(t *testing.T) {
+	w := opened(t)
+	hear(t, &w, status(1, 2, 4), status(5, 2, 1))
+	for s, scl := range []int{2, 4, 2, 2, 0, 1} {
+		for lsn := 1; lsn <= 6; lsn++ {
+			if got := w.Reaches(s, lsn); got != (lsn <= scl) {
+				t.Errorf("P13: segment %d goes to %d, and reaches %d: %v", s, scl, lsn, got)
+			}
+		}
+	}
+	for _, s := range []int{-1, 6, 1<<63 - 1, -1 << 63} {
+		if w.Reaches(s, 1) {
+			t.Errorf("P13: segment %d reaches record 1", s)
+		}
+	}
+}
